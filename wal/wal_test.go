@@ -574,3 +574,26 @@ func TestFull(t *testing.T) {
 	gives(t, "Commit", l.Commit(texts("b")...), api.OK)
 	holds(t, "emptied", d, texts("a", "b"))
 }
+
+// A Reset to records that the log holds already, all or some of them, is never ErrFull, however full the log is: package store relies on it.
+func TestHeld(t *testing.T) {
+	r := &numbers{24}
+	for range 100 {
+		d := disk.New(16+r.next(40), 128+r.next(200))
+		l, _ := must(t, d)
+		for long := 300; long > 0; {
+			if l.Commit(r.batch(3, long)...) == api.ErrFull {
+				long /= 2
+			}
+			long -= r.next(2)
+		}
+		_, all := must(t, d.Copy())
+		some := slices.DeleteFunc(slices.Clone(all), func([]byte) bool { return r.next(10) == 0 })
+		for _, held := range [][][]byte{all, some} {
+			e := d.Copy()
+			l, _ := must(t, e)
+			gives(t, "Reset to what the log holds", l.Reset(held...), api.OK)
+			holds(t, "Reset to what the log holds", e, held)
+		}
+	}
+}
